@@ -3,6 +3,7 @@ package tests
 import (
 	"cmp"
 	"fmt"
+	"math"
 	"slices"
 	"strings"
 	"testing"
@@ -152,36 +153,33 @@ func slowStep(c impl.Cfg, ch impl.Chart, b int) (impl.Chart, bool) {
 	return slowAppend(c, ch, items), true
 }
 
-// slowLacks returns what each item of a valid chart lacks, -1 if that leads to no sentence. It takes the document's sentence for all items again and again until no number gets smaller.
+// lacksNone stands for an item that leads to no sentence.
+const lacksNone = math.MaxInt
+
+// slowLacks returns what each item of a valid chart lacks. It takes the document's sentence for all items again and again until no number gets smaller.
 func slowLacks(c impl.Cfg, ch impl.Chart) [][]int {
 	c = impl.CfgTrim(c)
 	least := slowLeast(c)
-	rest := func(i impl.Item) int { return slowSum(c.Prods[i.Prod].Body[i.Dot:], least) }
 	var lacks [][]int
 	for _, set := range ch.Sets {
-		lacks = append(lacks, slices.Repeat([]int{-1}, len(set)))
-	}
-	lower := func(lack *int, number int) bool {
-		if *lack >= 0 && *lack <= number {
-			return false
-		}
-		*lack = number
-		return true
+		lacks = append(lacks, slices.Repeat([]int{lacksNone}, len(set)))
 	}
 	for again := true; again; {
 		again = false
 		for at, set := range ch.Sets {
 			for n, item := range set {
 				head := c.Prods[item.Prod].Head
+				rest := slowSum(c.Prods[item.Prod].Body[item.Dot:], least)
+				before := lacks[at][n]
 				if head == 0 && item.From == 0 {
-					again = lower(&lacks[at][n], rest(item)) || again
+					lacks[at][n] = min(lacks[at][n], rest)
 				}
 				for m, other := range ch.Sets[item.From] {
-					if s, ok := expected(c, other); ok && s.Head == head && lacks[item.From][m] >= 0 {
-						after := impl.Item{Prod: other.Prod, Dot: other.Dot + 1}
-						again = lower(&lacks[at][n], rest(item)+lacks[item.From][m]-rest(other)+rest(after)) || again
+					if s, ok := expected(c, other); ok && s.Head == head && lacks[item.From][m] != lacksNone {
+						lacks[at][n] = min(lacks[at][n], rest+lacks[item.From][m]-least[head])
 					}
 				}
+				again = again || lacks[at][n] < before
 			}
 		}
 	}
@@ -203,11 +201,11 @@ func slowSum(body []impl.Sym, least []int) int {
 // slowChartLeast returns the smallest of what the items of the last set lack.
 func slowChartLeast(c impl.Cfg, ch impl.Chart) int {
 	lacks := slowLacks(c, ch)
-	last := slices.DeleteFunc(lacks[len(lacks)-1], func(lack int) bool { return lack < 0 })
-	if len(last) == 0 {
+	shortest := slices.Min(append(lacks[len(lacks)-1], lacksNone))
+	if shortest == lacksNone {
 		return -1
 	}
-	return slices.Min(last)
+	return shortest
 }
 
 func slowEnds(c impl.Cfg, ch impl.Chart) bool {

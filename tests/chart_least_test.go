@@ -190,12 +190,15 @@ func TestGreatSumsOfItemsAreReduced(t *testing.T) {
 		{prod(0, 2, 2, "ab", 2), "0.3@0", 8193},
 		{prod(0, 2, "ab", 3), "0.0@0", 9999},
 		{prod(0, 2, "ab", 3), "0.1@0", 4098},
-		// What stands behind a nonterminal is added without it, so that its own length takes nothing away.
-		{prod(0, 2, 2, "ab", 2), "0.0@0 | 1.2@0", 9999},
-		{prod(0, 2, "ab", 3), "0.0@0 | 1.2@0", 4098},
-		{prod(0, 2, "ab", 3), "0.0@0 | 1.1@0", 4096 + 4098},
-		{prod(0, 1, 1, "abc"), "0.0@0 | 1.1@0", 8192 + 10002},
+		// The length of a nonterminal is taken from the reduced sum of the item that expects it.
+		{prod(0, 2, 2, "ab", 2), "0.0@0 | 1.2@0", 9999 - 8192},
+		{prod(0, 2, "ab", 3), "0.0@0 | 1.2@0", 9999 - 8192},
+		{prod(0, 2, "ab", 3), "0.0@0 | 1.1@0", 4096 + 9999 - 8192},
+		{prod(0, 2, "ab", 3), "0.0@0 | 0.1@0", 4098},
+		{prod(0, 3, "ab", 3), "0.0@0 | 1.1@0", 2048 + 4098},
+		{prod(0, 1, 1, "abc"), "0.0@0 | 1.1@0", 8192 + 10002 - 9999},
 		{prod(0, 1, 1, "abc"), "0.1@0 1.1@0 | 2.1@0", 4096 + 3},
+		{prod(0, 1, 1, "abc"), "0.0@0 1.0@0 2.1@0 | 3.1@0", 2048 + 4096 - 4096 + 9999 - 8192 + 3},
 	} {
 		c := doubled(want.prod)
 		ch := chartOf(t, want.sets)
@@ -204,4 +207,116 @@ func TestGreatSumsOfItemsAreReduced(t *testing.T) {
 		}
 		lacks(t, c, ch, want.lack)
 	}
+}
+
+// A length can be greater than what a sum has of it, so that with hand-made sets a number can be less than 0.
+func TestReducedSumsLessTheirHeads(t *testing.T) {
+	c := doubled(prod(0, 16), prod(0, "c", 17, 1))
+	c.Heads = 18
+	c.Prods = append(c.Prods, prod(16, 1, "abc"), prod(17, 16, "b"))
+	if least := impl.CfgLeast(c); least[0] != 9999 || least[16] != 10002 || least[17] != 10000 {
+		t.Fatal(least)
+	}
+	for _, want := range []struct {
+		sets string
+		lack int
+	}{
+		{"0.0@0", 9999},
+		{"0.0@0 | 17.0@0", 9999},
+		{"0.0@0 | 17.1@0", 0},
+		{"0.0@0 | 17.2@0", -1},
+		{"0.0@0 | 17.4@0", -3},
+		{"1.1@0", 9999},
+		{"1.1@0 | 18.0@0", 9999},
+		{"1.1@0 | 18.1@0", 0},
+		{"1.1@0 18.0@0 | 17.1@0", 0},
+		{"1.1@0 18.0@0 | 17.3@0 17.4@0", -3},
+		{"0.0@0 | 17.1@0 18.1@0", 0},
+		{"18.0@0 | 17.1@0", -1},
+	} {
+		ch := chartOf(t, want.sets)
+		if got := slowChartLeast(c, ch); got != want.lack {
+			t.Errorf("%s: slowly %d, not %d", want.sets, got, want.lack)
+		}
+		lacks(t, c, ch, want.lack)
+	}
+}
+
+// greatCfgs returns mixed productions of four nonterminals over the bytes a and b and over nonterminals of 16384, 8192, 4096 .. bytes, many of them with sums that are reduced.
+func greatCfgs(count int) []impl.Cfg {
+	below := numbers()
+	var out []impl.Cfg
+	for range count {
+		c := impl.Cfg{Heads: 19}
+		for head := range 4 {
+			for range 1 + below(3) {
+				p := impl.Prod{Head: head}
+				for range 1 + below(4) {
+					p.Body = append(p.Body, []impl.Sym{headSym(below(4)), headSym(4 + below(3)), rangeSym('a', 'a'+below(2))}[below(3)])
+				}
+				c.Prods = append(c.Prods, p)
+			}
+		}
+		for head := 4; head < 18; head++ {
+			c.Prods = append(c.Prods, prod(head, head+1, head+1))
+		}
+		c.Prods = append(c.Prods, prod(18, "a"))
+		out = append(out, c)
+	}
+	return out
+}
+
+func TestWhatTextsWithReducedSumsLack(t *testing.T) {
+	great := 0
+	below := numbers()
+	for _, c := range greatCfgs(150) {
+		eachChart(t, c, 5, func(_ string, ch impl.Chart) {
+			want := slowChartLeast(c, ch)
+			lacks(t, c, ch, want)
+			if want > impl.CfgMaxLeast-5 {
+				great++
+			}
+		})
+		ch := mixedChart(c, below)
+		lacks(t, c, ch, slowChartLeast(c, ch))
+	}
+	if great < 100 {
+		t.Errorf("only %d texts lack about as much as can be", great)
+	}
+}
+
+// Also where sums are reduced, each byte of a text takes away one at the most, and no text of so few bytes gets near a sentence.
+func TestP44BytesOfTextsWithReducedSums(t *testing.T) {
+	steps := map[bool]int{}
+	check := func(c impl.Cfg, text string) {
+		t.Helper()
+		ch, ok := impl.ChartOf(c, text)
+		if !ok {
+			return
+		}
+		lack := impl.ChartLeast(c, ch)
+		if end, ok := impl.MaskFinish(c, text); ok != (len(text)+lack <= impl.ChartMax) || ok && (len(end) != lack || !isSentence(c, text+end)) {
+			t.Fatalf("%s: %q is completed by %q, %v, and lacks %d", showCfg(c), text, end, ok, lack)
+		}
+		for _, b := range nextTexts(c, ch) {
+			next := impl.ChartLeast(c, hasChart(t, c, text+b))
+			if next < lack-1 {
+				t.Fatalf("%s: %q lacks %d, but with %q only %d", showCfg(c), text, lack, b, next)
+			}
+			if lack > impl.ChartMax {
+				steps[next == lack-1]++
+			}
+		}
+	}
+	for _, c := range greatCfgs(150) {
+		for _, text := range textsOf("ab", 4) {
+			check(c, text)
+		}
+	}
+	c := doubled(prod(0, 1, 1), prod(0, "b", 8, 9), prod(0, 0, "b"))
+	for length := range impl.ChartMax + 1 {
+		check(c, strings.Repeat("a", length))
+	}
+	lacks(t, c, hasChart(t, c, strings.Repeat("a", impl.ChartMax)), impl.CfgMaxLeast-impl.ChartMax)
+	hasSeen(t, steps, 100)
 }
